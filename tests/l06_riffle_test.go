@@ -307,23 +307,29 @@ func wantNoRiffle(t *testing.T, a []int) {
 	wantResults(t, fmt.Sprintf("the riffles to %v", a), list, ok, nil, false)
 }
 
-func TestP9RifflesOfWhatIsNoPerm(t *testing.T) {
-	for _, a := range noPerms {
-		wantNoRiffle(t, a)
-	}
+// manyNoPerms returns, besides noPerms, all short lists and lists of 12 positions that differ a little from permutations.
+func manyNoPerms() [][]int {
+	lists := slices.Clone(noPerms)
 	perms := permsUpTo(4)
 	for _, a := range listsOver([]int{-2, -1, 0, 1, 2, 3, 4}, 4) {
 		if !slices.ContainsFunc(perms, func(b []int) bool { return slices.Equal(a, b) }) {
-			wantNoRiffle(t, a)
+			lists = append(lists, a)
 		}
 	}
 	for i := range 12 {
 		for x := -2; x < 15; x++ {
 			if a := order(12); x != i {
 				a[i] = x
-				wantNoRiffle(t, a)
+				lists = append(lists, a)
 			}
 		}
+	}
+	return lists
+}
+
+func TestP9RifflesOfWhatIsNoPerm(t *testing.T) {
+	for _, a := range manyNoPerms() {
+		wantNoRiffle(t, a)
 	}
 }
 
